@@ -82,7 +82,7 @@ func eachPool(n, step int, f func(p impl.Pool)) {
 	}
 }
 
-// manyPools calls f with every pool of up to 4 frames, and some of 5.
+// manyPools calls f with every pool of eachPool of up to 4 frames, and some of 5.
 func manyPools(f func(p impl.Pool)) {
 	for n := 1; n <= 4; n++ {
 		eachPool(n, 3, f)
