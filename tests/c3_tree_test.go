@@ -547,11 +547,7 @@ func TestP27BuiltTreesHaveTheirPairs(t *testing.T) {
 
 // TestP27WrongPairs builds no trees of other pairs.
 func TestP27WrongPairs(t *testing.T) {
-	wrong := [][]impl.Pair{rising(25), rising(26), make([]impl.Pair, 1), make([]impl.Pair, 1000)}
-	for _, text := range []string{"a= a=", "b= a=", "A=", "abcd=", "a=vwxyz", "=x", "a= b= c= d= f= e="} {
-		wrong = append(wrong, pairList(text))
-	}
-	for _, list := range wrong {
+	for _, list := range wrongPairs() {
 		if got, ok := impl.BuildTree(list); ok || !sameTree(got, impl.Node{}) {
 			t.Errorf("BuildTree(%s) = %v, %v", pairText(list), got, ok)
 		}

@@ -437,6 +437,15 @@ func wrongTrees() map[string]impl.Node {
 	}
 }
 
+// wrongPairs returns pairs that are not those of a store, each for one reason.
+func wrongPairs() [][]impl.Pair {
+	wrong := [][]impl.Pair{rising(25), rising(26), make([]impl.Pair, 1), make([]impl.Pair, 1000)}
+	for _, text := range []string{"a= a=", "b= a=", "A=", "abcd=", "a=vwxyz", "=x", "a= b= c= d= f= e="} {
+		wrong = append(wrong, pairList(text))
+	}
+	return wrong
+}
+
 // notBounds are texts that are neither keys nor empty.
 var notBounds = []string{"A", "abcd", "a1", " ", "a ", "ab=", "\xc3\xa9", "{", "`", "a\x00", "aZa"}
 

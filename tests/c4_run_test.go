@@ -699,9 +699,9 @@ func TestP36WrongRuns(t *testing.T) {
 	}
 }
 
-// roomy returns a run with room behind it.
-func roomy(run []impl.Item) []impl.Item {
-	return append(make([]impl.Item, 0, 2*len(run)+5), run...)
+// roomy returns a list with room behind it.
+func roomy[T any](list []T) []T {
+	return append(make([]T, 0, 2*len(list)+5), list...)
 }
 
 // TestRunsAreFresh checks that results share no memory with arguments, nor within, and that these stay.

@@ -366,15 +366,20 @@ func wrongLevels() [][][]impl.Item {
 // runsApart reports whether no two of some runs share memory, their spare
 // capacity included. It writes over all of them.
 func runsApart(runs ...[]impl.Item) bool {
-	mark := func(i int) impl.Item { return impl.Item{Key: strconv.Itoa(i)} }
-	for i, run := range runs {
-		run = run[:cap(run)]
-		for j := range run {
-			run[j] = mark(i)
+	return listsApart(func(i int) impl.Item { return impl.Item{Key: strconv.Itoa(i)} }, runs...)
+}
+
+// listsApart reports whether no two of some lists share memory, their spare
+// capacity included. It writes over all of them, into each one its own mark.
+func listsApart[T comparable](mark func(i int) T, lists ...[]T) bool {
+	for i, list := range lists {
+		list = list[:cap(list)]
+		for j := range list {
+			list[j] = mark(i)
 		}
 	}
-	for i, run := range runs {
-		if slices.ContainsFunc(run[:cap(run)], func(item impl.Item) bool { return item != mark(i) }) {
+	for i, list := range lists {
+		if slices.ContainsFunc(list[:cap(list)], func(element T) bool { return element != mark(i) }) {
 			return false
 		}
 	}
