@@ -706,17 +706,7 @@ func groupsApart(groups ...impl.Group) bool {
 		lists = append(lists, g.Logs)
 	}
 	apart := listsApart(func(i int) impl.Entry { return impl.Entry{Term: math.MinInt + i} }, logs...)
-	for i, list := range lists {
-		list = list[:cap(list)]
-		for at := range list {
-			list[at] = make([]impl.Entry, i)
-		}
-	}
-	for i, list := range lists {
-		list = list[:cap(list)]
-		apart = apart && !slices.ContainsFunc(list, func(log []impl.Entry) bool { return len(log) != i })
-	}
-	return apart
+	return outerApart(lists...) && apart
 }
 
 // TestGroupsAreFresh checks that results share no memory with arguments, nor

@@ -385,3 +385,19 @@ func listsApart[T comparable](mark func(i int) T, lists ...[]T) bool {
 	}
 	return true
 }
+
+// outerApart reports the same of lists of lists, but of their own memory alone.
+func outerApart[T any](lists ...[][]T) bool {
+	for i, list := range lists {
+		list = list[:cap(list)]
+		for at := range list {
+			list[at] = make([]T, i)
+		}
+	}
+	for i, list := range lists {
+		if slices.ContainsFunc(list[:cap(list)], func(inner []T) bool { return len(inner) != i }) {
+			return false
+		}
+	}
+	return true
+}
